@@ -991,6 +991,23 @@ func TestPlainCubeGivesBack(t *testing.T) {
 	}
 }
 
+// What is written over in an answer is not seen in the next one, of the sizes that are cubes and of those beside them.
+func TestPlainCubesAskedAgain(t *testing.T) {
+	for n := int64(0); n <= 11; n++ {
+		want := plainByWords(n)
+		if is := n >= 2 && n <= 9; is != (len(want) > 0) {
+			t.Fatalf("%d nodes on a side: %d colours by the words", n, len(want))
+		}
+		for range 3 {
+			got := impl.PlainCube(n)
+			if !slices.Equal(got, want) {
+				t.Fatalf("the plain cube of %d: %v, want %v", n, few(got), few(want))
+			}
+			spoilAll(got, colourMark)
+		}
+	}
+}
+
 // A cube that is asked for again is another one in memory, whoever asks, and at the same time.
 func TestPlainCubesStandAlone(t *testing.T) {
 	for n := int64(2); n <= 9; n++ {
