@@ -498,6 +498,38 @@ func TestGraphOkKinds(t *testing.T) {
 	}
 }
 
+// The table of the chapter, written out: each kind with what it has, and with one thing more or less than that.
+func TestGraphOkTable(t *testing.T) {
+	const yes, no = true, false
+	for _, row := range []struct {
+		kind int64
+		// Just as the table says; with In, In2 or V more or less; with a V that is a nought with a minus.
+		whole, in, in2, v, minus bool
+	}{
+		{kind: 0, whole: no, in: no, in2: no, v: no, minus: no},
+		{kind: 1, whole: yes, in: no, in2: no, v: no, minus: no},
+		{kind: 2, whole: yes, in: yes, in2: no, v: yes, minus: yes},
+		{kind: 3, whole: yes, in: yes, in2: no, v: yes, minus: yes},
+		{kind: 4, whole: yes, in: yes, in2: yes, v: yes, minus: yes},
+		{kind: 5, whole: yes, in: yes, in2: no, v: yes, minus: yes},
+		{kind: 6, whole: yes, in: yes, in2: no, v: no, minus: no},
+		{kind: 7, whole: yes, in: yes, in2: no, v: no, minus: no},
+		{kind: 8, whole: no, in: no, in2: no, v: no, minus: no},
+	} {
+		checkGraphIs(t, withNode(step(row.kind, 0, 0, 0)), row.whole)
+		checkGraphIs(t, withNode(step(row.kind, 1, 0, 0)), row.in)
+		checkGraphIs(t, withNode(step(row.kind, 0, 1, 0)), row.in2)
+		checkGraphIs(t, withNode(step(row.kind, 0, 0, 1)), row.v)
+		checkGraphIs(t, withNode(step(row.kind, 0, 0, noughtBelow)), row.minus)
+		// Without a node ahead of it, one that has In has less than the table says.
+		checkGraphIs(t, graph{step(row.kind, 0, 0, 0)}, row.kind == source)
+		for _, number := range []int64{-1, ahead} {
+			checkGraphIs(t, withNode(step(row.kind, number, 0, 0)), false)
+			checkGraphIs(t, withNode(step(row.kind, 0, number, 0)), false)
+		}
+	}
+}
+
 func smallNodes() graph {
 	out := graph{}
 	for kind := int64(-1); kind <= 8; kind++ {
